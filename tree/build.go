@@ -37,8 +37,8 @@ type builder struct {
 	fresh []int // those that were given out
 }
 
-// besides begins a tree beside t.
-func besides(t *Tree) *builder {
+// beside begins a tree beside t.
+func beside(t *Tree) *builder {
 	b := &builder{pager: t.pager, old: map[string]int{}, pages: map[int]api.Page{}}
 	for number, p := range t.pages {
 		if data, why := node.Encode(p); why == api.OK {

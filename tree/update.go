@@ -76,7 +76,7 @@ func (t *Tree) changed(l []api.Write, changes map[string]api.Write) []entry {
 
 // become has the tree be that of these entries. What it was stays till the new one counts, here as on the disk.
 func (t *Tree) become(entries []entry, seq uint64) api.Errno {
-	b := besides(t)
+	b := beside(t)
 	next, why := b.build(entries)
 	if why != api.OK {
 		giveBack(t.pager, b.fresh)
